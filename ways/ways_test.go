@@ -1,0 +1,23 @@
+package ways
+
+import "testing"
+
+// asked is, for each layer that has been built, what the document's section 'Ways' asks for.
+var asked = []struct {
+	layer string
+	words []string
+}{
+	{"hash", []string{"variadic", "range-function"}},
+}
+
+func TestWays(t *testing.T) {
+	for _, a := range asked {
+		miss, err := WaysMissing("..", "rexmill", []string{a.layer}, a.words)
+		if err != nil {
+			t.Fatal(err)
+		}
+		for _, m := range miss {
+			t.Errorf("%s: way missing: %s", a.layer, m)
+		}
+	}
+}
