@@ -8,6 +8,7 @@ var asked = []struct {
 	words []string
 }{
 	{"hash", []string{"variadic", "range-function"}},
+	{"wire", []string{"generic-function", "method-value"}},
 }
 
 func TestWays(t *testing.T) {
