@@ -9,6 +9,7 @@ var asked = []struct {
 }{
 	{"hash", []string{"variadic", "range-function"}},
 	{"wire", []string{"generic-function", "method-value"}},
+	{"sets", []string{"closure", "variadic", "struct-compared"}},
 }
 
 func TestWays(t *testing.T) {
