@@ -10,6 +10,7 @@ var asked = []struct {
 	{"hash", []string{"variadic", "range-function"}},
 	{"wire", []string{"generic-function", "method-value"}},
 	{"sets", []string{"closure", "variadic", "struct-compared"}},
+	{"text", []string{"array", "range-function", "closure"}},
 }
 
 func TestWays(t *testing.T) {
