@@ -11,6 +11,7 @@ var asked = []struct {
 	{"wire", []string{"generic-function", "method-value"}},
 	{"sets", []string{"closure", "variadic", "struct-compared"}},
 	{"text", []string{"array", "range-function", "closure"}},
+	{"ast", []string{"closure", "iota", "variadic"}},
 }
 
 func TestWays(t *testing.T) {
