@@ -12,6 +12,7 @@ var asked = []struct {
 	{"sets", []string{"closure", "variadic", "struct-compared"}},
 	{"text", []string{"array", "range-function", "closure"}},
 	{"ast", []string{"closure", "iota", "variadic"}},
+	{"syntax", []string{"closure", "map", "embedding"}},
 }
 
 func TestWays(t *testing.T) {
