@@ -13,6 +13,7 @@ var asked = []struct {
 	{"text", []string{"array", "range-function", "closure"}},
 	{"ast", []string{"closure", "iota", "variadic"}},
 	{"syntax", []string{"closure", "map", "embedding"}},
+	{"sem", []string{"closure", "map", "method-expression"}},
 }
 
 func TestWays(t *testing.T) {
