@@ -1,198 +1,16 @@
 package sem
 
 import (
-	"iter"
 	"slices"
 	"testing"
 
 	"rexmill/api"
 	"rexmill/ast"
+	"rexmill/define"
 	"rexmill/sample"
 	"rexmill/syntax"
 	"rexmill/text"
 )
-
-// definition is section 7 as it stands: a list of results is an iterator, which is evaluated as far as it is asked for.
-type definition struct {
-	text  []int
-	steps int
-}
-
-type result = iter.Seq2[int, []int]
-
-func none(func(int, []int) bool) {}
-
-func one(j int, d []int) result {
-	return func(yield func(int, []int) bool) { yield(j, d) }
-}
-
-// list begins to evaluate M.
-func (x *definition) list(re api.Re, i int, c []int) result {
-	return func(yield func(int, []int) bool) {
-		if re.Op != api.OpRep {
-			x.steps++
-		}
-		for j, d := range x.results(re, i, c) {
-			if !yield(j, d) {
-				return
-			}
-		}
-	}
-}
-
-// head returns the first result, with the end want, if that is not negative.
-func (x *definition) head(l result, want int) (int, []int, bool) {
-	for j, d := range l {
-		if want < 0 || j == want {
-			return j, d, true
-		}
-	}
-	return 0, nil, false
-}
-
-func (x *definition) results(re api.Re, i int, c []int) result {
-	switch re.Op {
-	case api.OpEmpty:
-		return one(i, c)
-	case api.OpSet:
-		if i < len(x.text) && slices.ContainsFunc(re.Set, func(s api.Span) bool { return s.Lo <= x.text[i] && x.text[i] <= s.Hi }) {
-			return one(i+1, c)
-		}
-	case api.OpAssert:
-		if text.Assert(re.N, x.text, i) {
-			return one(i, c)
-		}
-	case api.OpCat:
-		return x.sequence(re.Kids, i, c)
-	case api.OpAlt:
-		return func(yield func(int, []int) bool) {
-			for _, kid := range re.Kids {
-				for j, d := range x.list(kid, i, c) {
-					if !yield(j, d) {
-						return
-					}
-				}
-			}
-		}
-	case api.OpCap:
-		return func(yield func(int, []int) bool) {
-			for j, d := range x.list(re.Kids[0], i, c) {
-				d = slices.Clone(d)
-				d[2*re.N-2], d[2*re.N-1] = i, j
-				if !yield(j, d) {
-					return
-				}
-			}
-		}
-	case api.OpRef:
-		f, t := c[2*re.N-2], c[2*re.N-1]
-		if f >= 0 && i+t-f <= len(x.text) && slices.Equal(x.text[f:t], x.text[i:i+t-f]) {
-			return one(i+t-f, c)
-		}
-	case api.OpAhead, api.OpBehind, api.OpAtom:
-		return x.part(re, i, c)
-	case api.OpCond:
-		if c[2*re.N-2] >= 0 {
-			return x.list(re.Kids[0], i, c)
-		}
-		return x.list(re.Kids[1], i, c)
-	case api.OpRep:
-		if re.Mode == api.Possessive {
-			re.Mode = api.Greedy
-			if j, d, found := x.head(x.round(re, 0, i, c), -1); found {
-				return one(j, d)
-			}
-			return none
-		}
-		return x.round(re, 0, i, c)
-	}
-	return none
-}
-
-func (x *definition) part(re api.Re, i int, c []int) result {
-	kid := re.Kids[0]
-	var d []int
-	var j int
-	found := false
-	if re.Op == api.OpBehind {
-		for s := i; s >= 0 && !found; s-- {
-			_, d, found = x.head(x.list(kid, s, c), i)
-		}
-	} else {
-		j, d, found = x.head(x.list(kid, i, c), -1)
-	}
-	switch {
-	case re.Neg && !found:
-		return one(i, c)
-	case re.Neg || !found:
-		return none
-	case re.Op == api.OpAtom:
-		return one(j, d)
-	}
-	return one(i, d)
-}
-
-func (x *definition) sequence(kids []api.Re, i int, c []int) result {
-	if len(kids) == 0 {
-		return one(i, c)
-	}
-	return func(yield func(int, []int) bool) {
-		for j, d := range x.list(kids[0], i, c) {
-			for k, e := range x.sequence(kids[1:], j, d) {
-				if !yield(k, e) {
-					return
-				}
-			}
-		}
-	}
-}
-
-func (x *definition) round(re api.Re, k, i int, c []int) result {
-	return func(yield func(int, []int) bool) {
-		x.steps++
-		more := func() bool {
-			if k >= re.Min && re.Max >= 0 && k >= re.Max {
-				return true
-			}
-			for j, d := range x.list(re.Kids[0], i, c) {
-				if k >= re.Min && j == i {
-					continue
-				}
-				for e, f := range x.round(re, k+1, j, d) {
-					if !yield(e, f) {
-						return false
-					}
-				}
-			}
-			return true
-		}
-		if k < re.Min {
-			more()
-			return
-		}
-		if re.Mode == api.Greedy {
-			_ = more() && yield(i, c)
-			return
-		}
-		_ = yield(i, c) && more()
-	}
-}
-
-// all evaluates the list of matches with up to most elements.
-func (x *definition) all(p api.Pattern, at, most int) []api.Match {
-	var l []api.Match
-	for j, d := range x.list(p.Re, at, slices.Repeat([]int{-1}, 2*p.Caps)) {
-		m := api.Match{Start: at, End: j}
-		for k := 0; k < len(d); k += 2 {
-			m.Caps = append(m.Caps, [2]int{d[k], d[k+1]})
-		}
-		l = append(l, m)
-		if len(l) == most {
-			break
-		}
-	}
-	return l
-}
 
 func parse(t *testing.T, s string) api.Pattern {
 	p, offset, err := syntax.Parse(s, syntax.Flags{})
@@ -239,30 +57,30 @@ func TestDefinition(t *testing.T) {
 		p := r.Pattern(sample.All(), 3+r.Int(4))
 		l := r.Text("abcd", 6)
 		at := r.Int(len(l) + 1)
-		x := &definition{text: l}
-		want := x.all(p, at, 5000)
-		if len(want) == 5000 || x.steps > 200000 {
+		x := define.New(l)
+		want := x.All(p, at, 5000)
+		if len(want) == 5000 || x.Steps > 200000 {
 			continue
 		}
 		found += min(1, len(want))
 		got, steps, err := All(p, l, at, 5000, api.MaxFuel)
-		if err != api.OK || steps != x.steps || !slices.EqualFunc(got, want, Equal) {
-			t.Fatalf("%d: %v on %v at %d: %d steps instead of %d", i, p, l, at, steps, x.steps)
+		if err != api.OK || steps != x.Steps || !slices.EqualFunc(got, want, Equal) {
+			t.Fatalf("%d: %v on %v at %d: %d steps instead of %d", i, p, l, at, steps, x.Steps)
 		}
-		if n, err := Steps(p, l, at, x.steps); err != api.OK || n != x.steps {
+		if n, err := Steps(p, l, at, x.Steps); err != api.OK || n != x.Steps {
 			t.Fatal("Steps")
 		}
-		if _, err := Steps(p, l, at, x.steps-1); err != api.ErrFuel {
+		if _, err := Steps(p, l, at, x.Steps-1); err != api.ErrFuel {
 			t.Fatal("one step less suffices")
 		}
 		most := 1 + r.Int(4)
-		y := &definition{text: l}
-		want = y.all(p, at, most)
-		got, steps, _ = All(p, l, at, most, y.steps)
-		if steps != y.steps || !slices.EqualFunc(got, want, Equal) || steps > x.steps {
-			t.Fatalf("%v on %v: the first %d matches take %d steps, %d were expected", p, l, most, steps, y.steps)
+		y := define.New(l)
+		want = y.All(p, at, most)
+		got, steps, _ = All(p, l, at, most, y.Steps)
+		if steps != y.Steps || !slices.EqualFunc(got, want, Equal) || steps > x.Steps {
+			t.Fatalf("%v on %v: the first %d matches take %d steps, %d were expected", p, l, most, steps, y.Steps)
 		}
-		if l, n, err := All(p, l, at, most, y.steps-1); err != api.ErrFuel || n != 0 || l != nil {
+		if l, n, err := All(p, l, at, most, y.Steps-1); err != api.ErrFuel || n != 0 || l != nil {
 			t.Fatal("fuel for one step less")
 		}
 		checkMatches(t, p, l, got)
@@ -293,35 +111,35 @@ func TestFirstAndEvery(t *testing.T) {
 	for range 1500 {
 		p := r.Pattern(sample.All(), 4)
 		l := r.Text("abc", 6)
-		x := &definition{text: l}
+		x := define.New(l)
 		var every []api.Match
 		from := r.Int(len(l) + 1)
 		for at := range len(l) + 1 {
-			every = append(every, x.all(p, at, 1)...)
-			if x.steps > 100000 {
+			every = append(every, x.All(p, at, 1)...)
+			if x.Steps > 100000 {
 				break
 			}
 		}
-		if x.steps > 100000 {
+		if x.Steps > 100000 {
 			continue
 		}
-		got, err := Every(p, l, x.steps)
+		got, err := Every(p, l, x.Steps)
 		if err != api.OK || !slices.EqualFunc(got, every, Equal) {
 			t.Fatalf("%v on %v: %v", p, l, got)
 		}
-		if l, err := Every(p, l, x.steps-1); err != api.ErrFuel || l != nil {
+		if l, err := Every(p, l, x.Steps-1); err != api.ErrFuel || l != nil {
 			t.Fatal("Every with one step less")
 		}
-		y := &definition{text: l}
+		y := define.New(l)
 		var want []api.Match
 		for at := from; at <= len(l) && len(want) == 0; at++ {
-			want = y.all(p, at, 1)
+			want = y.All(p, at, 1)
 		}
-		m, is, steps, err := First(p, l, from, y.steps)
-		if err != api.OK || is != (len(want) > 0) || is && !Equal(m, want[0]) || steps != y.steps {
+		m, is, steps, err := First(p, l, from, y.Steps)
+		if err != api.OK || is != (len(want) > 0) || is && !Equal(m, want[0]) || steps != y.Steps {
 			t.Fatalf("First of %v on %v from %d", p, l, from)
 		}
-		if m, is, n, err := First(p, l, from, y.steps-1); err != api.ErrFuel || is || n != 0 || !Equal(m, api.Match{}) {
+		if m, is, n, err := First(p, l, from, y.Steps-1); err != api.ErrFuel || is || n != 0 || !Equal(m, api.Match{}) {
 			t.Fatal("First with one step less")
 		}
 	}

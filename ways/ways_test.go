@@ -14,6 +14,7 @@ var asked = []struct {
 	{"ast", []string{"closure", "iota", "variadic"}},
 	{"syntax", []string{"closure", "map", "embedding"}},
 	{"sem", []string{"closure", "map", "method-expression"}},
+	{"back", []string{"embedding", "closure", "copy"}},
 }
 
 func TestWays(t *testing.T) {
