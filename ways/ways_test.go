@@ -15,6 +15,7 @@ var asked = []struct {
 	{"syntax", []string{"closure", "map", "embedding"}},
 	{"sem", []string{"closure", "map", "method-expression"}},
 	{"back", []string{"embedding", "closure", "copy"}},
+	{"memo", []string{"map", "closure", "iota"}},
 }
 
 func TestWays(t *testing.T) {
