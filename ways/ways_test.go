@@ -16,6 +16,7 @@ var asked = []struct {
 	{"sem", []string{"closure", "map", "method-expression"}},
 	{"back", []string{"embedding", "closure", "copy"}},
 	{"memo", []string{"map", "closure", "iota"}},
+	{"prog", []string{"closure", "struct-compared", "label"}},
 }
 
 func TestWays(t *testing.T) {
