@@ -17,6 +17,7 @@ var asked = []struct {
 	{"back", []string{"embedding", "closure", "copy"}},
 	{"memo", []string{"map", "closure", "iota"}},
 	{"prog", []string{"closure", "struct-compared", "label"}},
+	{"pike", []string{"closure", "clear", "three-index"}},
 }
 
 func TestWays(t *testing.T) {
