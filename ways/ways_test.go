@@ -18,6 +18,7 @@ var asked = []struct {
 	{"memo", []string{"map", "closure", "iota"}},
 	{"prog", []string{"closure", "struct-compared", "label"}},
 	{"pike", []string{"closure", "clear", "three-index"}},
+	{"dfa", []string{"map", "closure", "variadic"}},
 }
 
 func TestWays(t *testing.T) {
