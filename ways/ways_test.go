@@ -19,6 +19,7 @@ var asked = []struct {
 	{"prog", []string{"closure", "struct-compared", "label"}},
 	{"pike", []string{"closure", "clear", "three-index"}},
 	{"dfa", []string{"map", "closure", "variadic"}},
+	{"onepass", []string{"map", "range-function", "array"}},
 }
 
 func TestWays(t *testing.T) {
