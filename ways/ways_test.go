@@ -20,6 +20,7 @@ var asked = []struct {
 	{"pike", []string{"closure", "clear", "three-index"}},
 	{"dfa", []string{"map", "closure", "variadic"}},
 	{"onepass", []string{"map", "range-function", "array"}},
+	{"oracle", []string{"function-field", "closure", "range-function"}},
 }
 
 func TestWays(t *testing.T) {
