@@ -21,6 +21,7 @@ var asked = []struct {
 	{"dfa", []string{"map", "closure", "variadic"}},
 	{"onepass", []string{"map", "range-function", "array"}},
 	{"oracle", []string{"function-field", "closure", "range-function"}},
+	{"plan", []string{"array", "variadic"}},
 }
 
 func TestWays(t *testing.T) {
