@@ -22,6 +22,7 @@ var asked = []struct {
 	{"onepass", []string{"map", "range-function", "array"}},
 	{"oracle", []string{"function-field", "closure", "range-function"}},
 	{"plan", []string{"array", "variadic"}},
+	{"auto", []string{"map", "closure", "generic-function"}},
 }
 
 func TestWays(t *testing.T) {
