@@ -23,6 +23,7 @@ var asked = []struct {
 	{"oracle", []string{"function-field", "closure", "range-function"}},
 	{"plan", []string{"array", "variadic"}},
 	{"auto", []string{"map", "closure", "generic-function"}},
+	{"deriv", []string{"map", "range-function", "fallthrough"}},
 }
 
 func TestWays(t *testing.T) {
