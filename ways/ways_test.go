@@ -24,6 +24,7 @@ var asked = []struct {
 	{"plan", []string{"array", "variadic"}},
 	{"auto", []string{"map", "closure", "generic-function"}},
 	{"deriv", []string{"map", "range-function", "fallthrough"}},
+	{"amb", []string{"generic-function", "closure", "map", "array"}},
 }
 
 func TestWays(t *testing.T) {
