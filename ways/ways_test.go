@@ -25,6 +25,7 @@ var asked = []struct {
 	{"auto", []string{"map", "closure", "generic-function"}},
 	{"deriv", []string{"map", "range-function", "fallthrough"}},
 	{"amb", []string{"generic-function", "closure", "map", "array"}},
+	{"growth", []string{"iota", "closure", "range-integer"}},
 }
 
 func TestWays(t *testing.T) {
