@@ -26,6 +26,7 @@ var asked = []struct {
 	{"deriv", []string{"map", "range-function", "fallthrough"}},
 	{"amb", []string{"generic-function", "closure", "map", "array"}},
 	{"growth", []string{"iota", "closure", "range-integer"}},
+	{"bound", []string{"array", "closure", "iota"}},
 }
 
 func TestWays(t *testing.T) {
