@@ -27,6 +27,7 @@ var asked = []struct {
 	{"amb", []string{"generic-function", "closure", "map", "array"}},
 	{"growth", []string{"iota", "closure", "range-integer"}},
 	{"bound", []string{"array", "closure", "iota"}},
+	{"rules", []string{"function-field", "generic-function", "closure"}},
 }
 
 func TestWays(t *testing.T) {
