@@ -28,6 +28,7 @@ var asked = []struct {
 	{"growth", []string{"iota", "closure", "range-integer"}},
 	{"bound", []string{"array", "closure", "iota"}},
 	{"rules", []string{"function-field", "generic-function", "closure"}},
+	{"repair", []string{"closure", "embedding", "variadic"}},
 }
 
 func TestWays(t *testing.T) {
