@@ -29,6 +29,7 @@ var asked = []struct {
 	{"bound", []string{"array", "closure", "iota"}},
 	{"rules", []string{"function-field", "generic-function", "closure"}},
 	{"repair", []string{"closure", "embedding", "variadic"}},
+	{"differ", []string{"range-function", "closure"}},
 }
 
 func TestWays(t *testing.T) {
