@@ -30,6 +30,7 @@ var asked = []struct {
 	{"rules", []string{"function-field", "generic-function", "closure"}},
 	{"repair", []string{"closure", "embedding", "variadic"}},
 	{"differ", []string{"range-function", "closure"}},
+	{"monoid", []string{"map", "closure", "copy"}},
 }
 
 func TestWays(t *testing.T) {
