@@ -31,6 +31,7 @@ var asked = []struct {
 	{"repair", []string{"closure", "embedding", "variadic"}},
 	{"differ", []string{"range-function", "closure"}},
 	{"monoid", []string{"map", "closure", "copy"}},
+	{"rope", []string{"interface", "type-switch", "range-function"}},
 }
 
 func TestWays(t *testing.T) {
