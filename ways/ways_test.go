@@ -32,6 +32,7 @@ var asked = []struct {
 	{"differ", []string{"range-function", "closure"}},
 	{"monoid", []string{"map", "closure", "copy"}},
 	{"rope", []string{"interface", "type-switch", "range-function"}},
+	{"live", []string{"map", "struct-compared", "method-value"}},
 }
 
 func TestWays(t *testing.T) {
