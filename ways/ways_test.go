@@ -33,6 +33,7 @@ var asked = []struct {
 	{"monoid", []string{"map", "closure", "copy"}},
 	{"rope", []string{"interface", "type-switch", "range-function"}},
 	{"live", []string{"map", "struct-compared", "method-value"}},
+	{"edits", []string{"map", "struct-compared", "variadic"}},
 }
 
 func TestWays(t *testing.T) {
