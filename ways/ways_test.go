@@ -34,6 +34,7 @@ var asked = []struct {
 	{"rope", []string{"interface", "type-switch", "range-function"}},
 	{"live", []string{"map", "struct-compared", "method-value"}},
 	{"edits", []string{"map", "struct-compared", "variadic"}},
+	{"stream", []string{"map", "closure"}},
 }
 
 func TestWays(t *testing.T) {
