@@ -35,6 +35,7 @@ var asked = []struct {
 	{"live", []string{"map", "struct-compared", "method-value"}},
 	{"edits", []string{"map", "struct-compared", "variadic"}},
 	{"stream", []string{"map", "closure"}},
+	{"ruleset", []string{"map", "closure", "embedding"}},
 }
 
 func TestWays(t *testing.T) {
