@@ -36,6 +36,7 @@ var asked = []struct {
 	{"edits", []string{"map", "struct-compared", "variadic"}},
 	{"stream", []string{"map", "closure"}},
 	{"ruleset", []string{"map", "closure", "embedding"}},
+	{"disk", []string{"map", "delete"}},
 }
 
 func TestWays(t *testing.T) {
