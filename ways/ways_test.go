@@ -37,6 +37,7 @@ var asked = []struct {
 	{"stream", []string{"map", "closure"}},
 	{"ruleset", []string{"map", "closure", "embedding"}},
 	{"disk", []string{"map", "delete"}},
+	{"journal", []string{"range-function", "defer"}},
 }
 
 func TestWays(t *testing.T) {
