@@ -38,6 +38,7 @@ var asked = []struct {
 	{"ruleset", []string{"map", "closure", "embedding"}},
 	{"disk", []string{"map", "delete"}},
 	{"journal", []string{"range-function", "defer"}},
+	{"store", []string{"map", "delete"}},
 }
 
 func TestWays(t *testing.T) {
