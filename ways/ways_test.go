@@ -39,6 +39,7 @@ var asked = []struct {
 	{"disk", []string{"map", "delete"}},
 	{"journal", []string{"range-function", "defer"}},
 	{"store", []string{"map", "delete"}},
+	{"meter", []string{"closure", "copy", "generic-function"}},
 }
 
 func TestWays(t *testing.T) {
