@@ -40,6 +40,7 @@ var asked = []struct {
 	{"journal", []string{"range-function", "defer"}},
 	{"store", []string{"map", "delete"}},
 	{"meter", []string{"closure", "copy", "generic-function"}},
+	{"pool", []string{"map", "range-function", "copy"}},
 }
 
 func TestWays(t *testing.T) {
