@@ -41,6 +41,7 @@ var asked = []struct {
 	{"store", []string{"map", "delete"}},
 	{"meter", []string{"closure", "copy", "generic-function"}},
 	{"pool", []string{"map", "range-function", "copy"}},
+	{"worker", []string{"map", "delete", "embedding", "promoted"}},
 }
 
 func TestWays(t *testing.T) {
