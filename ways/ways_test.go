@@ -42,6 +42,7 @@ var asked = []struct {
 	{"meter", []string{"closure", "copy", "generic-function"}},
 	{"pool", []string{"map", "range-function", "copy"}},
 	{"worker", []string{"map", "delete", "embedding", "promoted"}},
+	{"canary", []string{"iota", "map", "closure"}},
 }
 
 func TestWays(t *testing.T) {
