@@ -43,6 +43,7 @@ var asked = []struct {
 	{"pool", []string{"map", "range-function", "copy"}},
 	{"worker", []string{"map", "delete", "embedding", "promoted"}},
 	{"canary", []string{"iota", "map", "closure"}},
+	{"proto", []string{"closure", "iota", "array"}},
 }
 
 func TestWays(t *testing.T) {
