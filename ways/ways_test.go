@@ -44,6 +44,7 @@ var asked = []struct {
 	{"worker", []string{"map", "delete", "embedding", "promoted"}},
 	{"canary", []string{"iota", "map", "closure"}},
 	{"proto", []string{"closure", "iota", "array"}},
+	{"filter", []string{"map", "interface", "closure"}},
 }
 
 func TestWays(t *testing.T) {
