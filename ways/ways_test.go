@@ -45,6 +45,7 @@ var asked = []struct {
 	{"canary", []string{"iota", "map", "closure"}},
 	{"proto", []string{"closure", "iota", "array"}},
 	{"filter", []string{"map", "interface", "closure"}},
+	{"editor", []string{"map", "embedding", "closure"}},
 }
 
 func TestWays(t *testing.T) {
