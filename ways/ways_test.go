@@ -46,6 +46,7 @@ var asked = []struct {
 	{"proto", []string{"closure", "iota", "array"}},
 	{"filter", []string{"map", "interface", "closure"}},
 	{"editor", []string{"map", "embedding", "closure"}},
+	{"house", []string{"map", "method-expression", "embedding", "range-function"}},
 }
 
 func TestWays(t *testing.T) {

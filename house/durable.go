@@ -1,0 +1,163 @@
+package house
+
+import (
+	"iter"
+
+	"rexmill/api"
+	"rexmill/disk"
+	"rexmill/editor"
+	"rexmill/edits"
+	"rexmill/journal"
+	"rexmill/ruleset"
+	"rexmill/store"
+	"rexmill/wire"
+)
+
+// The files of a house.
+const (
+	storeFile = iota
+	journalFile
+)
+
+// What DoEdit does with a document.
+const (
+	applyItem = iota
+	openText
+	undoLast
+	closeText
+)
+
+// durable is what stays when the power fails: versions, and documents, whose edits are in a journal.
+type durable struct {
+	store  *store.Store
+	log    *journal.Log
+	editor *editor.Editor
+	live   []ruleset.Rule // the rules of the editor
+	index  []int          // of the live rules within their version
+	lost   bool           // something that was done could not be made durable
+}
+
+// load returns what a disk has.
+func load(d *disk.Disk) (durable, api.Errno) {
+	s, err := store.Open(d, storeFile)
+	if err != api.OK {
+		return durable{}, err
+	}
+	log, records, err := journal.Open(d, journalFile)
+	if err != api.OK {
+		return durable{}, err
+	}
+	x := durable{store: s, log: log}
+	rules, _ := s.Load(s.Active())
+	x.live, x.index = liveRules(rules)
+	if x.editor, err = editor.New(x.live); err != api.OK {
+		return durable{}, err
+	}
+	for op, good := range recorded(records) {
+		if !good {
+			return durable{}, api.ErrForm
+		}
+		if _, _, err := x.change(op); err != api.OK {
+			return durable{}, api.ErrForm
+		}
+	}
+	return x, api.OK
+}
+
+// liveRules returns the live rules of a version, with their indices; without any, a rule that matches nothing.
+func liveRules(l []ruleset.Rule) ([]ruleset.Rule, []int) {
+	var live []ruleset.Rule
+	var index []int
+	for i, r := range l {
+		if _, err := editor.New([]ruleset.Rule{r}); err == api.OK {
+			live = append(live, r)
+			index = append(index, i)
+		}
+	}
+	if len(live) == 0 {
+		live = []ruleset.Rule{{Name: "nothing", Text: "[]"}}
+	}
+	return live, index
+}
+
+// numbered returns matches of the live rules with the numbers that these have in their version.
+func (x *durable) numbered(l []api.Found) []api.Found {
+	var out []api.Found
+	for _, f := range l {
+		if f.Rule < len(x.index) {
+			f.Rule = x.index[f.Rule]
+			out = append(out, f)
+		}
+	}
+	return out
+}
+
+// record returns the record of an operation with a document.
+func record(x Op) []byte {
+	w := &wire.Writer{}
+	w.Int(x.A)
+	w.Int(x.B)
+	w.Raw(x.Raw)
+	w.Raw(edits.Encode(x.Item))
+	return w.Done()
+}
+
+// recorded yields the operations of records, and false for a record that is none.
+func recorded(records [][]byte) iter.Seq2[Op, bool] {
+	return func(yield func(Op, bool) bool) {
+		for _, b := range records {
+			r := wire.Read(b)
+			op := Op{Kind: DoEdit, A: r.Int(), B: r.Int(), Raw: r.Raw()}
+			item, err := edits.Decode(r.Raw())
+			op.Item = item
+			if !yield(op, err == api.OK && r.End() == api.OK) {
+				return
+			}
+		}
+	}
+}
+
+// change does something with a document, and returns what vanishes and what appears.
+func (x *durable) change(op Op) ([]api.Found, []api.Found, api.Errno) {
+	switch op.B {
+	case applyItem:
+		return x.editor.Apply(op.A, op.Item)
+	case openText:
+		return nil, nil, x.editor.Open(op.A, op.Raw)
+	case undoLast:
+		return x.editor.Undo(op.A)
+	case closeText:
+		return nil, nil, x.editor.Close(op.A)
+	}
+	return nil, nil, api.ErrArg
+}
+
+// putFound writes matches.
+func putFound(w *wire.Writer, l []api.Found) {
+	for _, f := range l {
+		w.Int(f.Rule)
+		w.Int(f.Start)
+		w.Int(f.End)
+	}
+}
+
+func (h *House) edit(x Op) (int, []byte, api.Errno) {
+	b := record(x)
+	if len(b) > api.MaxBlock {
+		return 0, nil, api.ErrLimit
+	}
+	gone, come, err := h.change(x)
+	if err != api.OK {
+		return 0, nil, err
+	}
+	if err := h.log.Append(b); err != api.OK {
+		h.lost = true
+		return 0, nil, err
+	}
+	gone, come = h.numbered(gone), h.numbered(come)
+	w := &wire.Writer{}
+	w.Int(len(gone))
+	putFound(w, gone)
+	putFound(w, come)
+	return len(gone) + len(come), w.Done(), api.OK
+}
