@@ -200,3 +200,17 @@ func TestErrors(t *testing.T) {
 		t.Error("the error of Valid comes first")
 	}
 }
+
+func TestBeginnings(t *testing.T) {
+	r := sample.New(3)
+	greater := func(a, b Growth) bool { return a.Kind > b.Kind || a.Kind == b.Kind && a.Degree > b.Degree }
+	for range 600 {
+		p, q := r.Pattern(sample.Shape{}, 4), r.Pattern(sample.Shape{}, 4)
+		both := api.Pattern{Re: api.Re{Op: api.OpCat, Kids: []api.Re{p.Re, q.Re}}}
+		a, err := Of(p)
+		b, err2 := Of(both)
+		if err+err2 == api.OK && greater(a, b) {
+			t.Fatalf("%v begins %v", p, both)
+		}
+	}
+}

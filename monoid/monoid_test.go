@@ -256,3 +256,36 @@ func TestSymbolsThatAreNone(t *testing.T) {
 		t.Error("a machine without states")
 	}
 }
+
+func TestReplaced(t *testing.T) {
+	r := sample.New(3)
+	replaced := 0
+	for range 4000 {
+		p := r.Pattern(sample.Shape{}, 2+r.Int(3))
+		g, _ := prog.Compile(p)
+		m, err := New(g)
+		if err != api.OK {
+			t.Fatal(err)
+		}
+		a := r.Text("abcd", 3)
+		b := r.Text("abcd", 3)
+		if slices.Equal(a, b) || !Equal(of(t, m, a), of(t, m, b)) {
+			continue
+		}
+		replaced++
+		before, after := r.Text("abcd", 3), r.Text("abcd", 3)
+		outside := func(l []int) [][2]int {
+			found := every(g, slices.Concat(before, l, after))
+			return slices.DeleteFunc(found, func(f [2]int) bool {
+				inside := func(at int) bool { return at > len(before) && at < len(before)+len(l) }
+				return inside(f[0]) || inside(f[1])
+			})
+		}
+		if x, y := outside(a), outside(b); !slices.Equal(x, y) {
+			t.Fatalf("%v: %v in place of %v: %v, %v", p, a, b, x, y)
+		}
+	}
+	if replaced < 50 {
+		t.Error("too few equal summaries", replaced)
+	}
+}

@@ -248,3 +248,46 @@ func TestAtRandom(t *testing.T) {
 		}
 	}
 }
+
+func TestProgress(t *testing.T) {
+	r := sample.New(2)
+	for range 100 {
+		workers, timeout := 1+r.Int(4), 1+r.Int(9)
+		p := pool(t, workers, timeout, 4, 9, 2, 7, 1)
+		tick := 0
+		var late []Reply
+		for len(p.Open()) > 0 {
+			tick += r.Int(timeout + 2)
+			w := r.Int(workers)
+			switch r.Int(8) {
+			case 0:
+				p.Die(w, tick)
+			case 1, 2:
+				p.Revive(w)
+			case 3:
+				for _, x := range late {
+					p.Answer(x, tick)
+				}
+			default:
+				task, try, is, err := p.Ask(w, tick)
+				if err != api.OK || !is {
+					continue
+				}
+				answer := Reply{task.ID, w, try, []byte{task.Body[0] * 2}}
+				if r.Int(3) == 0 {
+					late = append(late, answer)
+				} else {
+					p.Answer(answer, tick)
+				}
+			}
+			if tick > 1000000 {
+				t.Fatal("tasks are never answered")
+			}
+		}
+		for i, id := range []int{1, 2, 4, 7, 9} {
+			if x := p.Done()[i]; x.Task != id || !slices.Equal(x.Body, []byte{byte(2 * id)}) {
+				t.Fatal("the answers", p.Done())
+			}
+		}
+	}
+}

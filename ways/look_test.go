@@ -66,7 +66,7 @@ func (w *waysLook) load(path string) (*waysPack, error) {
 	return p, err
 }
 
-// WaysMissing: the words of wanted of which the program (at root, of that module) has nothing in what its faces reach; sorted.
+// WaysMissing: the words of wanted of which the first face (of the program at root, of that module) has nothing in its own code that its exported functions reach; sorted.
 func WaysMissing(root, module string, faces, wanted []string) ([]string, error) {
 	if build.Default.GOROOT == "" {
 		o, _ := exec.Command("go", "env", "GOROOT").Output()
@@ -92,7 +92,7 @@ func WaysMissing(root, module string, faces, wanted []string) ([]string, error) 
 		if f, ok := o.(*types.Func); ok {
 			o = f.Origin()
 		}
-		if o != nil && decls[o] != nil && !seen[o] {
+		if o != nil && decls[o] != nil && !seen[o] && o.Pkg().Path() == module+"/"+faces[0] {
 			seen[o] = true
 			work = append(work, o)
 		}
