@@ -129,8 +129,10 @@ func TestPlans(t *testing.T) {
 	}
 	d.Arm(1)
 	d.Crash(nil, -1)
-	if d.Sync() != api.OK || d.Sync() != api.OK {
-		t.Error("a crash forgets the plan")
+	for range 2 {
+		if d.Sync() != api.OK {
+			t.Error("a crash forgets the plan")
+		}
 	}
 }
 
