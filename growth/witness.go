@@ -5,7 +5,6 @@ import (
 
 	"rexmill/amb"
 	"rexmill/api"
-	"rexmill/sets"
 )
 
 // path returns the symbols of a shortest way from one of some nodes to a node, which is there.
@@ -153,11 +152,8 @@ func (x *graph) counter() func(ways []int, symbol int) []int {
 	return func(ways []int, symbol int) []int {
 		c, known := classes[symbol]
 		if !known {
-			class, err := sets.Class(x.Classes, symbol)
-			c = class
-			if err != api.OK {
-				c = -1
-			}
+			in := func(s api.Span) bool { return s.Lo <= symbol && symbol <= s.Hi }
+			c = slices.IndexFunc(x.Classes, func(class []api.Span) bool { return slices.ContainsFunc(class, in) })
 			classes[symbol] = c
 		}
 		next := make([]int, len(ways))
