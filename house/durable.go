@@ -29,12 +29,13 @@ const (
 
 // durable is what stays when the power fails: versions, and documents, whose edits are in a journal.
 type durable struct {
-	store  *store.Store
-	log    *journal.Log
-	editor *editor.Editor
-	live   []ruleset.Rule // the rules of the editor
-	index  []int          // of the live rules within their version
-	lost   bool           // something that was done could not be made durable
+	store   *store.Store
+	log     *journal.Log
+	editor  *editor.Editor
+	live    []ruleset.Rule // the rules of the editor
+	index   []int          // of the live rules within their version
+	records [][]byte       // the records of the journal, from which the documents can be made again
+	lost    bool           // something that was done could not be made durable
 }
 
 // load returns what a disk has.
@@ -47,21 +48,30 @@ func load(d *disk.Disk) (durable, api.Errno) {
 	if err != api.OK {
 		return durable{}, err
 	}
-	x := durable{store: s, log: log}
+	x := durable{store: s, log: log, records: records}
 	rules, _ := s.Load(s.Active())
 	x.live, x.index = liveRules(rules)
-	if x.editor, err = editor.New(x.live); err != api.OK {
+	if x.editor, err = replay(x.live, records); err != api.OK {
 		return durable{}, err
+	}
+	return x, api.OK
+}
+
+// replay returns the editor to which the records of a journal lead. Rules make no difference to texts, so it does not matter when they were replaced.
+func replay(live []ruleset.Rule, records [][]byte) (*editor.Editor, api.Errno) {
+	e, err := editor.New(live)
+	if err != api.OK {
+		return nil, err
 	}
 	for op, good := range recorded(records) {
 		if !good {
-			return durable{}, api.ErrForm
+			return nil, api.ErrForm
 		}
-		if _, _, err := x.change(op); err != api.OK {
-			return durable{}, api.ErrForm
+		if _, _, err := change(e, op); err != api.OK {
+			return nil, api.ErrForm
 		}
 	}
-	return x, api.OK
+	return e, api.OK
 }
 
 // liveRules returns the live rules of a version, with their indices; without any, a rule that matches nothing.
@@ -118,16 +128,16 @@ func recorded(records [][]byte) iter.Seq2[Op, bool] {
 }
 
 // change does something with a document, and returns what vanishes and what appears.
-func (x *durable) change(op Op) ([]api.Found, []api.Found, api.Errno) {
+func change(e *editor.Editor, op Op) ([]api.Found, []api.Found, api.Errno) {
 	switch op.B {
 	case applyItem:
-		return x.editor.Apply(op.A, op.Item)
+		return e.Apply(op.A, op.Item)
 	case openText:
-		return nil, nil, x.editor.Open(op.A, op.Raw)
+		return nil, nil, e.Open(op.A, op.Raw)
 	case undoLast:
-		return x.editor.Undo(op.A)
+		return e.Undo(op.A)
 	case closeText:
-		return nil, nil, x.editor.Close(op.A)
+		return nil, nil, e.Close(op.A)
 	}
 	return nil, nil, api.ErrArg
 }
@@ -146,14 +156,17 @@ func (h *House) edit(x Op) (int, []byte, api.Errno) {
 	if len(b) > api.MaxBlock {
 		return 0, nil, api.ErrLimit
 	}
-	gone, come, err := h.change(x)
+	gone, come, err := change(h.editor, x)
 	if err != api.OK {
 		return 0, nil, err
 	}
 	if err := h.log.Append(b); err != api.OK {
+		// What is not durable has not happened: the documents are made again without it.
 		h.lost = true
+		h.editor, _ = replay(h.live, h.records)
 		return 0, nil, err
 	}
+	h.records = append(h.records, b)
 	gone, come = h.numbered(gone), h.numbered(come)
 	w := &wire.Writer{}
 	w.Int(len(gone))

@@ -499,12 +499,10 @@ func TestDurable(t *testing.T) {
 					next[10*x.A], next[10*x.A+1] = 0, 0
 				}
 			}
-			if h.Up() {
-				if got := stateOf(h); !same(got, want) {
-					t.Fatal("an operation with an error changes something", x, err)
-				}
-				checkFound(t, h)
+			if got := stateOf(h); !same(got, want) {
+				t.Fatal("an operation with an error changes something", x, err)
 			}
+			checkFound(t, h)
 			if r.Int(6) > 0 && h.Up() {
 				continue
 			}
@@ -586,10 +584,12 @@ func TestFullDisk(t *testing.T) {
 	do(t, h, Op{Kind: DoCrash}, 2)
 	d.Truncate(9, 0)
 	d.Append(9, make([]byte, 1<<20-d.Used()))
+	before := h.Hash()
 	fail(t, h, Op{Kind: DoEdit, B: 3}, api.ErrFull)
-	if h.Up() {
+	if h.Up() || h.Hash() != before {
 		t.Error("an edit that is not durable")
 	}
+	checkFound(t, h)
 	do(t, h, Op{Kind: DoCrash}, 2)
 	if b, err := h.Text(0); string(b) != "ab" || err != api.OK {
 		t.Error("the document")
