@@ -42,14 +42,14 @@ func TestApply(t *testing.T) {
 	}{
 		{0, "a(?:bc)(?:de)", "abc(?:de)"}, {0, "abc", "-"}, {0, "a|(?:bc)", "-"}, {1, "a|(?:b|c)|(?:d|e)", "a|b|c|(?:d|e)"}, {1, "(?:a|b)c", "-"}, {2, "a(?:)b(?:)", "ab(?:)"}, {2, "(?:)a", "a"}, {2, "(?:)(?:)", ""}, {2, "a|", "-"}, {2, "ab", "-"},
 		{3, "a|b|a|b", "a|b|b"}, {3, "a|a", "a"}, {3, "ab", "-"}, {3, "aa", "-"}, {3, "a|b", "-"},
-		{4, "ab|ac", "a(?:b|c)"}, {4, "x|ab|acd|ae", "x|a(?:b|cd)|ae"}, {4, "a|ab", "-"}, {4, "a*b|a*c", "-"}, {4, "a{2}b|a{2}c", "a{2}(?:b|c)"}, {4, "a*+b|a*+c", "a*+(?:b|c)"}, {4, "(?=a)b|(?=a)c", "(?=a)(?:b|c)"}, {4, "^b|^c", "-"}, {4, "(?:a|b)b|(?:a|b)c", "-"}, {4, "ab|x|ac", "-"}, {4, "(?>a*)b|(?>a*)c", "(?>a*)(?:b|c)"}, {4, "(?<1>a)b|(?<1>a)c", "(?<1>a)(?:b|c)"}, {4, `(?#1)\1b|\1c`, `(?#1)\1(?:b|c)`}, {4, "(?#1)(?(1)a|b)b|(?(1)a|b)c", "(?#1)(?(1)a|b)(?:b|c)"}, {4, "(?:ab)c|(?:ab)d", "(?:ab)(?:c|d)"},
+		{4, "ab|ac", "a(?:b|c)"}, {4, "x|ab|acd|ae", "x|a(?:b|cd)|ae"}, {4, "a|ab", "-"}, {4, "a*b|a*c", "-"}, {4, "a{2}b|a{2}c", "a{2}(?:b|c)"}, {4, "a*+b|a*+c", "a*+(?:b|c)"}, {4, "(?=a)b|(?=a)c", "(?=a)(?:b|c)"}, {4, "^b|^c", "^(?:b|c)"}, {4, `\b^b|\B^c`, "-"}, {4, `(?:^|\b)b|(?:^|\b)c`, "-"}, {4, "(?:a|b)b|(?:a|b)c", "-"}, {4, "ab|x|ac", "-"}, {4, "(?>a*)b|(?>a*)c", "(?>a*)(?:b|c)"}, {4, "(?<1>a)b|(?<1>a)c", "(?<1>a)(?:b|c)"}, {4, `(?#1)\1b|\1c`, `(?#1)\1(?:b|c)`}, {4, "(?#1)(?(1)a|b)b|(?(1)a|b)c", "(?#1)(?(1)a|b)(?:b|c)"}, {4, "(?:ab)c|(?:ab)d", "(?:ab)(?:c|d)"},
 		{5, "bx|cdx", "(?:b|cd)x"}, {5, "ba*|ca*|d", "(?:b|c)a*|d"}, {5, "x|bx", "-"}, {5, "ax|ay", "-"},
 		{6, "a|b|c", "[a-b]|c"}, {6, "a|b", "[a-b]"}, {6, "a|xy|b", "-"}, {6, "[]|a", "a"}, {6, "ab", "-"},
 		{7, "a{1}", "a"}, {7, "a{1}?", "a"}, {7, "a{1}+", "-"}, {7, "a{1,2}", "-"}, {8, "(?:a*)*", "a*"}, {8, "(?:a+)+", "a+"}, {8, "(?:a+)*", "a*"}, {8, "(?:a*)+", "a*"}, {8, "(?:a*?)*", "-"}, {8, "(?:a*)*?", "-"}, {8, "(?:a*)*+", "-"}, {8, "(?:a{2,})*", "-"}, {8, "(?:(?:a?)*)*", "-"}, {8, "(?:a?)*", "-"}, {8, "(?:a*){0,1}", "-"},
 		{9, "a*a*b", "a*b"}, {9, "a*a*", "a*"}, {9, "a*a+", "-"}, {9, "a*?a*?", "-"}, {9, "(?:a?)*(?:a?)*", "-"}, {9, "ba*a*a*", "ba*a*"}, {10, "a?a*", "a*"}, {10, "a??a*", "-"}, {10, "a?a*?", "-"}, {10, "a?b*", "-"}, {10, "(?:a?)?(?:a?)*", "-"}, {10, "a{0,2}a*", "-"}, {11, "baa*c", "ba+c"}, {11, "(a)(?<1>a)*", "(?<1>a)+"}, {11, "aa*?", "-"}, {11, "aa+", "-"}, {11, "(?:a*)(?:a*)*", "(?:a*)+"}, {11, "ab*", "-"},
 		{12, "a*b", "a*+b"}, {12, "a*ab", "-"}, {12, "a*", "-"}, {12, "a*c?", "-"}, {12, "a*c?b", "a*+c?b"}, {12, "a*c?a", "a*c?+a"}, {12, "a*?b", "-"}, {12, "a*+b", "-"}, {12, "a{2}b", "-"}, {12, "a{2,3}b", "a{2,3}+b"}, {12, "(a)*b", "-"}, {12, `(x)a*\1b`, "-"}, {12, "a*(?=a)b", "a*+(?=a)b"}, {12, "a*[^a]a*b", "a*+[^a]a*b"}, {12, "a*(?:b|c*)d", "a*+(?:b|c*)d"}, {12, "a*(?:b|a*)d", "-"}, {12, "a*(b)a", "a*+(?<1>b)a"},
 		{13, "(?=ab*)", "(?=a)"}, {13, "(?=abc*)", "(?=ab)"}, {13, "(?!ab*)", "-"}, {13, "(?=ab)", "-"}, {13, "(?=a(b?))", "-"}, {13, "(?=a(?:b?)*)", "(?=a)"}, {13, "(?<=ab*)", "-"}, {13, "(?=a*)", "-"}, {13, "(?=a(?=b))", "-"}, {14, "(?=a*)", ""}, {14, "(?=)", ""}, {14, "(?!)", "-"}, {14, "(?=a)", "-"}, {14, "(?=(a)?)", "-"}, {14, "(?=(?:a?)*)", ""},
-		{15, "(?>a)", "a"}, {15, "(?>a*)", "-"}, {15, "(?>a{2})", "a{2}"}, {15, "(?>^)", "-"}, {15, "(?>(?!a))", "(?!a)"}, {16, "(?>a*)", "a*+"}, {16, "(?>(?:a|b){2,3})", "(?:a|b){2,3}+"}, {16, "(?>a*?)", "-"}, {16, "(?>a*+)", "-"}, {16, "(?>a)", "-"},
+		{15, "(?>a)", "a"}, {15, "(?>a*)", "-"}, {15, "(?>a{2})", "a{2}"}, {15, "(?>^)", "^"}, {15, "(?>(?!a))", "(?!a)"}, {16, "(?>a*)", "a*+"}, {16, "(?>(?:a|b){2,3})", "(?:a|b){2,3}+"}, {16, "(?>a*?)", "-"}, {16, "(?>a*+)", "-"}, {16, "(?>a)", "-"},
 	} {
 		p := parse(t, c.s)
 		kept := ast.Encode(p)
@@ -74,6 +74,62 @@ func TestApply(t *testing.T) {
 	for _, rule := range []int{-1, 17} {
 		if _, good := Apply(rule, api.Re{}); good {
 			t.Error("there is no such rule")
+		}
+	}
+}
+
+// TestSingle asks loose of atomic groups, which can be used exactly if what is in the group is single.
+func TestSingle(t *testing.T) {
+	for s, want := range map[string]bool{
+		"": true, "a": true, "[]": true, `(?#1)\1`: true, "(?=a*)": true, "(?!a*)": true, "(?<=a*)": true, "(?<!a*)": true, "(?>a*)": true,
+		`\A`: true, `\z`: true, "(?m:^)": true, "(?m:$)": true, `\b`: true, `\B`: true,
+		"ab": true, `^a\b`: true, "a(?>b*)": true, "ab*": false, "^b*": false,
+		"(?#1)(?(1)a|^)": true, `(?#1)(?(1)\b|\B)`: true, "(?#1)(?(1)a*|^)": false, "(?#1)(?(1)^|a*)": false,
+		"(?<1>^)": true, "(?<1>a$)": true, "(?<1>^a*)": false,
+		"a{3}": true, `\b{2}`: true, "(?:^a){2}": true, "(?:^a){2}?": true, "(?<1>^){32}": true, "^{0,1}": false, "^*": false, "^*?": false, "^*+": true, "(?:^|a)*+": true, "(?:a*){2}": false,
+		"a|b": false, "^|$": false, "(?:^|$)a": false, "(?<1>^|$)": false, "(?:^|$){2}": false,
+	} {
+		p := parse(t, s)
+		re, good := Apply(15, api.Re{Op: api.OpAtom, Kids: []api.Re{p.Re}})
+		if good != want || good && ast.Compare(re, p.Re) != 0 || !good && ast.Compare(re, api.Re{}) != 0 {
+			t.Errorf("loose of (?>%s): %v", s, good)
+		}
+	}
+}
+
+// TestStepsOfAssertions looks at the steps of patterns whose parts are single because of an assertion.
+func TestStepsOfAssertions(t *testing.T) {
+	for n := api.AtBegin; n <= api.NotAtWord; n++ {
+		assertion := api.Re{Op: api.OpAssert, N: n}
+		a, b := parse(t, "a").Re, parse(t, `\n`).Re
+		cat := func(l ...api.Re) api.Re { return api.Re{Op: api.OpCat, Kids: l} }
+		for i, c := range []struct {
+			re   api.Re
+			want []Step
+		}{
+			{api.Re{Op: api.OpAtom, Kids: []api.Re{assertion}}, []Step{{15, nil}}},
+			{cat(a, api.Re{Op: api.OpAtom, Kids: []api.Re{cat(b, assertion)}}), []Step{{15, []int{1}}}},
+			{api.Re{Op: api.OpAlt, Kids: []api.Re{cat(assertion, a), cat(assertion, b)}}, []Step{{4, nil}}},
+			{api.Re{Op: api.OpRep, Max: -1, Kids: []api.Re{{Op: api.OpAlt, Kids: []api.Re{cat(assertion, a), cat(assertion, b)}}}}, []Step{{4, []int{0}}}},
+			{api.Re{Op: api.OpRep, Max: -1, Kids: []api.Re{{Op: api.OpAlt, Kids: []api.Re{assertion, a}}}}, nil},
+		} {
+			p := api.Pattern{Re: c.re}
+			l, err := Steps(p)
+			if err != api.OK || !bytes.Equal(Encode(l), Encode(c.want)) {
+				t.Errorf("assertion %d, case %d: %v %d", n, i, l, err)
+			}
+			for _, s := range l {
+				q, err := At(p, s)
+				if err != api.OK {
+					t.Fatalf("assertion %d, case %d: %d", n, i, err)
+				}
+				checkLess(t, p, q, s)
+				for _, text := range []string{"", "a", "\n", "aa", "a\n", "\na", "\n\n", "a\na", "\na\n"} {
+					if same, err := Same(p, q, symbols(text), 10000); err != api.OK || !same {
+						t.Errorf("assertion %d, case %d: another effect on %q: %d", n, i, text, err)
+					}
+				}
+			}
 		}
 	}
 }

@@ -12,7 +12,7 @@ import (
 func single(re api.Re) bool {
 	all := !slices.ContainsFunc(re.Kids, func(kid api.Re) bool { return !single(kid) })
 	switch re.Op {
-	case api.OpEmpty, api.OpSet, api.OpRef, api.OpAhead, api.OpBehind, api.OpAtom:
+	case api.OpEmpty, api.OpSet, api.OpRef, api.OpAhead, api.OpBehind, api.OpAtom, api.OpAssert:
 		return true
 	case api.OpCat, api.OpCond, api.OpCap:
 		return all
